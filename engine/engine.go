@@ -21,7 +21,12 @@ func Load(src string) (*Engine, api.Errno, int) {
 }
 
 // Text: the policy's one text (P3).
-func (e *Engine) Text() string { return "" }
+func (e *Engine) Text() string {
+	if e == nil || e.policy == nil {
+		return "" // an engine that is not Load's has no policy
+	}
+	return e.policy.Text()
+}
 
 // Access: a key is asked for (P4).
 func (e *Engine) Access(key uint64) (bool, []uint64, api.Errno) { return false, nil, api.OK }

@@ -362,6 +362,9 @@ func checkLoad(t *testing.T, src string) {
 	if no < api.OK || no > api.ErrMiss || at < 0 || at > len(src) || no == api.OK && at != 0 {
 		t.Fatalf("Load(%q): error %d at %d", src, no, at)
 	}
+	if e != nil {
+		wantText(t, src, e.Text())
+	}
 }
 
 func TestP1AnyText(t *testing.T) {

@@ -1,4 +1,4 @@
-// Package policy reads the text of a policy into a tree, and tells what is wrong with it, and where.
+// Package policy reads the text of a policy into a tree, tells what is wrong with it, and where, and writes a tree as the one text of it.
 package policy
 
 // Miss is the event of a rule for keys that stand in no queue; as a keyword it is no queue's name.
