@@ -3,12 +3,14 @@ package engine
 
 import (
 	"evictor/api"
+	"evictor/machine"
 	"evictor/policy"
 )
 
 // Engine: of a policy.
 type Engine struct {
-	policy *policy.Policy
+	policy  *policy.Policy
+	machine *machine.Machine
 }
 
 // Load: the engine of a policy, or what is wrong with it, and where (P2).
@@ -17,22 +19,36 @@ func Load(src string) (*Engine, api.Errno, int) {
 	if err != nil {
 		return nil, errno(err), place(err)
 	}
-	return &Engine{policy: p}, api.OK, 0
+	return &Engine{policy: p, machine: machine.New(p)}, api.OK, 0
 }
+
+// loaded tells Load's engines from others, which have no policy.
+func (e *Engine) loaded() bool { return e != nil && e.policy != nil }
 
 // Text: the policy's one text (P3).
 func (e *Engine) Text() string {
-	if e == nil || e.policy == nil {
-		return "" // an engine that is not Load's has no policy
+	if !e.loaded() {
+		return ""
 	}
 	return e.policy.Text()
 }
 
 // Access: a key is asked for (P4).
-func (e *Engine) Access(key uint64) (bool, []uint64, api.Errno) { return false, nil, api.OK }
+func (e *Engine) Access(key uint64) (bool, []uint64, api.Errno) {
+	if !e.loaded() {
+		return false, nil, api.OK
+	}
+	hit, evicted, err := e.machine.Access(key)
+	if err != nil {
+		return false, nil, errno(err)
+	}
+	return hit, evicted, api.OK
+}
 
 // Remove: a key leaves its queue (P4).
-func (e *Engine) Remove(key uint64) bool { return false }
+func (e *Engine) Remove(key uint64) bool {
+	return e.loaded() && e.machine.Remove(key)
+}
 
 // Keys: of a queue, from its head on (P5).
 func (e *Engine) Keys(name string) ([]uint64, api.Errno) { return nil, api.OK }

@@ -4,10 +4,11 @@ import (
 	"errors"
 
 	"evictor/api"
+	"evictor/machine"
 	"evictor/policy"
 )
 
-// errno answers the number of what is wrong with a policy.
+// errno answers the number of what is wrong with a policy, or with a step of it.
 func errno(err error) api.Errno {
 	switch {
 	case errors.Is(err, policy.ErrLong):
@@ -28,6 +29,10 @@ func errno(err error) api.Errno {
 		return api.ErrMany
 	case errors.Is(err, policy.ErrMiss):
 		return api.ErrMiss
+	case errors.Is(err, machine.ErrFull):
+		return api.ErrFull
+	case errors.Is(err, machine.ErrEmpty):
+		return api.ErrEmpty
 	}
 	// The only one left; and no error may ever answer OK.
 	return api.ErrSyntax

@@ -19,7 +19,7 @@ var (
 	ErrMiss   = errors.New("there is no rule for miss")
 )
 
-// Fault is what is wrong with a policy, and its place in the text.
+// Fault is what is wrong with a policy, or with a step of it that is run, and its place in the text.
 type Fault struct {
 	Err error
 	At  int
