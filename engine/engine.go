@@ -11,6 +11,7 @@ import (
 type Engine struct {
 	policy  *policy.Policy
 	machine *machine.Machine
+	counts  api.Counts
 }
 
 // Load: the engine of a policy, or what is wrong with it, and where (P2).
@@ -42,7 +43,18 @@ func (e *Engine) Access(key uint64) (bool, []uint64, api.Errno) {
 	if err != nil {
 		return false, nil, errno(err)
 	}
+	e.count(hit, len(evicted))
 	return hit, evicted, api.OK
+}
+
+// count is for the calls of Access without an error, which alone count.
+func (e *Engine) count(hit bool, evicted int) {
+	if hit {
+		e.counts.Hits++
+	} else {
+		e.counts.Misses++
+	}
+	e.counts.Evicted += evicted
 }
 
 // Remove: a key leaves its queue (P4).
@@ -51,10 +63,33 @@ func (e *Engine) Remove(key uint64) bool {
 }
 
 // Keys: of a queue, from its head on (P5).
-func (e *Engine) Keys(name string) ([]uint64, api.Errno) { return nil, api.OK }
+func (e *Engine) Keys(name string) ([]uint64, api.Errno) {
+	if !e.loaded() {
+		return nil, api.ErrName
+	}
+	keys, err := e.machine.Keys(name)
+	if err != nil {
+		return nil, errno(err)
+	}
+	return keys, api.OK
+}
 
 // Value: of a variable (P5).
-func (e *Engine) Value(name string) (int, api.Errno) { return 0, api.OK }
+func (e *Engine) Value(name string) (int, api.Errno) {
+	if !e.loaded() {
+		return 0, api.ErrName
+	}
+	value, err := e.machine.Value(name)
+	if err != nil {
+		return 0, errno(err)
+	}
+	return value, api.OK
+}
 
 // Counts: of what has been (P5).
-func (e *Engine) Counts() api.Counts { return api.Counts{} }
+func (e *Engine) Counts() api.Counts {
+	if !e.loaded() {
+		return api.Counts{}
+	}
+	return e.counts
+}

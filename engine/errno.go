@@ -8,7 +8,7 @@ import (
 	"evictor/policy"
 )
 
-// errno answers the number of what is wrong with a policy, or with a step of it.
+// errno answers the number of what is wrong with a policy, with a step of it, or with a name that is asked for.
 func errno(err error) api.Errno {
 	switch {
 	case errors.Is(err, policy.ErrLong):
@@ -33,6 +33,8 @@ func errno(err error) api.Errno {
 		return api.ErrFull
 	case errors.Is(err, machine.ErrEmpty):
 		return api.ErrEmpty
+	case errors.Is(err, machine.ErrName):
+		return api.ErrName
 	}
 	// The only one left; and no error may ever answer OK.
 	return api.ErrSyntax

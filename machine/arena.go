@@ -60,6 +60,15 @@ func (a *arena) length(q int) int { return a.queues[q].length }
 
 func (a *arena) full(q int) bool { return a.queues[q].length == a.queues[q].room }
 
+// keys answers the keys of a queue's entries, from its head to its tail.
+func (a *arena) keys(q int) []uint64 {
+	keys := make([]uint64, 0, a.length(q))
+	for n := a.nodes[q].next; n != q; n = a.nodes[n].next {
+		keys = append(keys, a.nodes[n].key)
+	}
+	return keys
+}
+
 // tail answers the key of the entry at a queue's tail, if there is one.
 func (a *arena) tail(q int) (uint64, bool) {
 	if a.queues[q].length == 0 {

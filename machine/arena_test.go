@@ -6,15 +6,6 @@ import (
 	"testing"
 )
 
-// keysOf answers a queue's keys from its head to its tail.
-func keysOf(a *arena, q int) []uint64 {
-	var keys []uint64
-	for n := a.nodes[q].next; n != q; n = a.nodes[n].next {
-		keys = append(keys, a.nodes[n].key)
-	}
-	return keys
-}
-
 // checkArena holds the links against each other: each node is in one ring, or free, and each ring is one from both sides.
 func checkArena(t *testing.T, a *arena) {
 	t.Helper()
@@ -29,7 +20,7 @@ func checkArena(t *testing.T, a *arena) {
 			back = append(back, x.key)
 		}
 		slices.Reverse(back)
-		if there := keysOf(a, q); !slices.Equal(there, back) {
+		if there := a.keys(q); !slices.Equal(there, back) {
 			t.Fatalf("queue %d is %v from its head on, %v from its tail on", q, there, back)
 		}
 		if len(back) != queue.length || len(back) > queue.room {
@@ -75,7 +66,7 @@ func TestArenaMoves(t *testing.T) {
 		}
 		checkArena(t, a)
 		for q, want := range c.want {
-			if got := keysOf(a, q); !slices.Equal(got, want) {
+			if got := a.keys(q); !slices.Equal(got, want) {
 				t.Errorf("behind moving %d to %d: queue %d is %v, want %v", c.key, c.to, q, got, want)
 			}
 		}
@@ -115,10 +106,10 @@ func TestArenaCopiesStandAlone(t *testing.T) {
 	b.forget(0)
 	checkArena(t, a)
 	checkArena(t, b)
-	if got := keysOf(a, 0); !slices.Equal(got, []uint64{5, 2, 0}) || a.freq(0) != 7 || a.length(1) != 0 {
+	if got := a.keys(0); !slices.Equal(got, []uint64{5, 2, 0}) || a.freq(0) != 7 || a.length(1) != 0 {
 		t.Errorf("the first became %v", got)
 	}
-	if got := keysOf(b, 1); !slices.Equal(got, []uint64{6, 2}) || b.length(0) != 0 || b.freq(0) != 0 {
+	if got := b.keys(1); !slices.Equal(got, []uint64{6, 2}) || b.length(0) != 0 || b.freq(0) != 0 {
 		t.Errorf("the copy became %v", got)
 	}
 }

@@ -2,10 +2,14 @@
 package machine
 
 import (
+	"errors"
 	"slices"
 
 	"evictor/policy"
 )
+
+// ErrName is told for a name that is no queue's, or no variable's, where one is asked for.
+var ErrName = errors.New("nothing of the kind has that name")
 
 // Machine is a policy's program, and the state that its runs have led to.
 type Machine struct {
@@ -48,10 +52,28 @@ func (m *Machine) rule(key uint64) []step {
 	if !ok {
 		return m.program.rules[policy.Miss]
 	}
-	return m.program.rules[m.program.events[q]]
+	return m.program.rules[m.program.queues[q]]
 }
 
 // Remove forgets a key's entry and answers whether there was one.
 func (m *Machine) Remove(key uint64) bool {
 	return m.state.arena.forget(key)
+}
+
+// Keys answers a queue's keys from its head to its tail, or ErrName.
+func (m *Machine) Keys(name string) ([]uint64, error) {
+	q := slices.Index(m.program.queues, name)
+	if q < 0 {
+		return nil, ErrName
+	}
+	return m.state.arena.keys(q), nil
+}
+
+// Value answers a variable's value, or ErrName.
+func (m *Machine) Value(name string) (int, error) {
+	v := slices.Index(m.program.vars, name)
+	if v < 0 {
+		return 0, ErrName
+	}
+	return m.state.vars[v], nil
 }

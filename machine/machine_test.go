@@ -20,19 +20,27 @@ func newMachine(t *testing.T, src string) *Machine {
 }
 
 // show answers the whole state: each queue with its keys and frequencies, and the values of the variables.
-func show(m *Machine) string {
+func show(t *testing.T, m *Machine) string {
+	t.Helper()
 	var b strings.Builder
-	a := m.state.arena
-	for q, name := range m.program.events {
+	for _, name := range m.program.queues {
+		keys, err := m.Keys(name)
+		if err != nil {
+			t.Fatalf("Keys(%q): %v", name, err)
+		}
 		b.WriteString(name)
-		for _, key := range keysOf(a, q) {
-			b.WriteString(" " + strconv.FormatUint(key, 10) + ":" + strconv.Itoa(a.freq(key)))
+		for _, key := range keys {
+			b.WriteString(" " + strconv.FormatUint(key, 10) + ":" + strconv.Itoa(m.state.arena.freq(key)))
 		}
 		b.WriteString("; ")
 	}
 	b.WriteString("vars")
-	for _, v := range m.state.vars {
-		b.WriteString(" " + strconv.Itoa(v))
+	for _, name := range m.program.vars {
+		value, err := m.Value(name)
+		if err != nil {
+			t.Fatalf("Value(%q): %v", name, err)
+		}
+		b.WriteString(" " + strconv.Itoa(value))
 	}
 	return b.String()
 }
@@ -63,7 +71,7 @@ func TestP4State(t *testing.T) {
 			}
 			checkArena(t, m.state.arena)
 		}
-		if got := show(m); got != c.want {
+		if got := show(t, m); got != c.want {
 			t.Errorf("%q behind %v:\n got %s\nwant %s", c.src, c.keys, got, c.want)
 		}
 	}
@@ -78,7 +86,7 @@ func faulty(t *testing.T, then string) *Machine {
 			t.Fatalf("%q: Access(%d): %v", then, key, err)
 		}
 	}
-	if got := show(m); got != "a 2:2 1:2; b 3:1; g; vars 2" {
+	if got := show(t, m); got != "a 2:2 1:2; b 3:1; g; vars 2" {
 		t.Fatalf("%q: the state is %s", then, got)
 	}
 	return m
@@ -107,13 +115,13 @@ func TestP4Faults(t *testing.T) {
 	} {
 		at := len(faultyHead) + strings.Index(c.marked, "@")
 		m := faulty(t, strings.Replace(c.marked, "@", "", 1))
-		before := show(m)
+		before := show(t, m)
 		found, evicted, err := m.Access(4)
 		var fault *policy.Fault
 		if found || evicted != nil || !errors.Is(err, c.want) || !errors.As(err, &fault) || fault.At != at {
 			t.Errorf("%q: %v, %v, %v, want %v, at %d", c.marked, found, evicted, err, c.want, at)
 		}
-		if after := show(m); after != before {
+		if after := show(t, m); after != before {
 			t.Errorf("%q: the state was %s and became %s", c.marked, before, after)
 		}
 		checkArena(t, m.state.arena)
@@ -139,10 +147,25 @@ func TestP4RemoveState(t *testing.T) {
 		{3, true, "r; g; vars 5"},
 		{3, false, "r; g; vars 5"},
 	} {
-		if ok := m.Remove(c.key); ok != c.ok || show(m) != c.want {
-			t.Errorf("Remove(%d): %v and %s, want %v and %s", c.key, ok, show(m), c.ok, c.want)
+		if ok := m.Remove(c.key); ok != c.ok || show(t, m) != c.want {
+			t.Errorf("Remove(%d): %v and %s, want %v and %s", c.key, ok, show(t, m), c.ok, c.want)
 		}
 		checkArena(t, m.state.arena)
+	}
+}
+
+func TestP5Names(t *testing.T) {
+	m := newMachine(t, "queue r 1; ghost g 1; var v 9; on miss { put r; inc v; }")
+	m.Access(1)
+	for _, name := range []string{"", "v", "x", policy.Miss} {
+		if keys, err := m.Keys(name); keys != nil || !errors.Is(err, ErrName) {
+			t.Errorf("Keys(%q) = %v, %v", name, keys, err)
+		}
+	}
+	for _, name := range []string{"", "r", "g", "x", policy.Miss} {
+		if value, err := m.Value(name); value != 0 || !errors.Is(err, ErrName) {
+			t.Errorf("Value(%q) = %v, %v", name, value, err)
+		}
 	}
 }
 

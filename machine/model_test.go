@@ -397,7 +397,7 @@ func tryPolicy(t *testing.T, src string, m *maker, counts *tally) {
 			}
 			counts.add(hit, evicted, err)
 		}
-		if got, want := show(machine), plain.show(); got != want {
+		if got, want := show(t, machine), plain.show(); got != want {
 			t.Fatalf("%q: behind %d:\n got %s\nwant %s", src, key, got, want)
 		}
 		checkArena(t, machine.state.arena)

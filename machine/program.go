@@ -48,9 +48,10 @@ type step struct {
 
 // program is what a policy says, made ready to be run. A run does not change it.
 type program struct {
-	events   []string // for a key in a queue, by the queue's number
+	queues   []string // names, by the queue's number
 	ghosts   []bool   // by the queue's number
 	rooms    []int    // by the queue's number
+	vars     []string // names, by the variable's number
 	most     []int    // by the variable's number
 	mostFreq int
 	rules    map[string][]step
@@ -83,11 +84,12 @@ func (c *compiler) decl(d policy.Decl) {
 	switch d.Word {
 	case "queue", "ghost":
 		c.index[d.Name.Text] = len(p.rooms)
-		p.events = append(p.events, d.Name.Text)
+		p.queues = append(p.queues, d.Name.Text)
 		p.ghosts = append(p.ghosts, d.Word == "ghost")
 		p.rooms = append(p.rooms, d.Number.Value)
 	case "var":
 		c.index[d.Name.Text] = len(p.most)
+		p.vars = append(p.vars, d.Name.Text)
 		p.most = append(p.most, d.Number.Value)
 	case "freq":
 		p.mostFreq = d.Number.Value
